@@ -57,8 +57,9 @@ type TextResult struct {
 type byteRow []byte
 
 func (b *byteRow) putNumber(number int64, width int) {
+	bits := uint64(number)
 	for shift := 8 * (width - 1); shift >= 0; shift -= 8 {
-		*b = append(*b, byte(number>>shift))
+		*b = append(*b, byte(bits>>shift))
 	}
 }
 
@@ -242,11 +243,11 @@ func UnpackPage(data []byte) PageResult {
 }
 
 func readNumber(data []byte) int64 {
-	number := int64(0)
+	bits := uint64(0)
 	for _, b := range data {
-		number = number<<8 | int64(b)
+		bits = bits<<8 | uint64(b)
 	}
-	return number
+	return int64(bits)
 }
 
 // readPage reads no more cells than there is room for; a count above that is not

@@ -40,3 +40,17 @@ func mustPanicNever(t *testing.T, name string, call func()) {
 	}()
 	call()
 }
+
+// wantSameAgain asks of each in turn, and then backwards: whatever was asked between, a call is answered as it was at first.
+func wantSameAgain[E any](t *testing.T, list []E, ask func(E) string) {
+	t.Helper()
+	var first []string
+	for _, e := range list {
+		first = append(first, ask(e))
+	}
+	for i := len(list) - 1; i >= 0; i-- {
+		if got := ask(list[i]); got != first[i] {
+			t.Errorf("number %d was answered %s, and then %s", i, first[i], got)
+		}
+	}
+}

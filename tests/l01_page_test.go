@@ -589,27 +589,11 @@ func TestNilIsTheEmptyList(t *testing.T) {
 	wantCode(t, "UnpackPage of an empty list", impl.UnpackPage([]byte{}), impl.ErrForm)
 }
 
-// Whatever is asked between: a call is answered as it was at first.
 func TestPagesKeepNothing(t *testing.T) {
-	type answers struct {
-		set, drop, read impl.PageResult
-		packed          impl.BytesResult
-		sum             int64
-	}
-	ask := func(p impl.Page) answers {
+	wantSameAgain(t, somePages(), func(p impl.Page) string {
 		b := impl.PackPage(p)
-		return answers{impl.SetCell(p, 5, 6, 7), impl.DropCell(p, 5, 7), impl.UnpackPage(b.Bytes), b, impl.SumBytes(b.Bytes)}
-	}
-	var first []string
-	for _, p := range somePages() {
-		first = append(first, fmt.Sprintf("%+v", ask(p)))
-	}
-	pages := somePages()
-	for i := len(pages) - 1; i >= 0; i-- {
-		if got := fmt.Sprintf("%+v", ask(pages[i])); got != first[i] {
-			t.Errorf("%+v was answered %s, and then %s", pages[i], first[i], got)
-		}
-	}
+		return fmt.Sprint(impl.SetCell(p, 5, 6, 7), impl.DropCell(p, 5, 7), impl.UnpackPage(b.Bytes), b, impl.SumBytes(b.Bytes))
+	})
 }
 
 func TestPagesNeverPanic(t *testing.T) {

@@ -804,21 +804,10 @@ func TestNilAndEmptyDisksAreAlike(t *testing.T) {
 	}
 }
 
-// Whatever is asked between: a call is answered as it was at first.
 func TestDisksKeepNothing(t *testing.T) {
-	ask := func(d impl.Disk) string {
+	wantSameAgain(t, someDisks(), func(d impl.Disk) string {
 		return fmt.Sprint(impl.NewDisk(int64(len(d.Pages))), impl.WriteDisk(d, fullPage(0, 3)), impl.ReadDisk(d, 0), impl.SyncDisk(d), impl.CrashDisk(d, nil), impl.TornOf(d))
-	}
-	disks := someDisks()
-	var first []string
-	for _, d := range disks {
-		first = append(first, ask(d))
-	}
-	for i := len(disks) - 1; i >= 0; i-- {
-		if got := ask(disks[i]); got != first[i] {
-			t.Errorf("disk %d was answered %s, and then %s", i, first[i], got)
-		}
-	}
+	})
 }
 
 func TestDisksNeverPanic(t *testing.T) {
