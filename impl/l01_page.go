@@ -170,10 +170,7 @@ func CellOf(p Page, key int64) IntResult {
 	if code := PageFault(p); code != OK {
 		return IntResult{Code: code}
 	}
-	if !hasCell(p.Cells, key) {
-		return IntResult{Code: ErrNone}
-	}
-	return IntResult{Value: p.Cells[placeOfKey(p.Cells, key)].Value}
+	return valueOf(p.Cells, key)
 }
 
 // placeOfKey answers where key stands in rising cells, or would have to be put.
@@ -188,6 +185,14 @@ func placeOfKey(cells []Cell, key int64) int {
 func hasCell(cells []Cell, key int64) bool {
 	place := placeOfKey(cells, key)
 	return place < len(cells) && cells[place].Key == key
+}
+
+// valueOf answers what key has in rising cells.
+func valueOf(cells []Cell, key int64) IntResult {
+	if !hasCell(cells, key) {
+		return IntResult{Code: ErrNone}
+	}
+	return IntResult{Value: cells[placeOfKey(cells, key)].Value}
 }
 
 // withCell begins with no memory at all: what it answers must not grow into the
