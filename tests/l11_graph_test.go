@@ -647,7 +647,7 @@ func TestOneRwCycleAsTold(t *testing.T) {
 	}
 }
 
-// All graphs of a few transactions, each pair with or without an edge.
+// All graphs of up to four transactions, each pair with or without an edge, of a Kind that is thrown.
 func TestAllSmallGraphs(t *testing.T) {
 	met := map[[3]bool]int{}
 	d := dice(122)
@@ -660,9 +660,6 @@ func TestAllSmallGraphs(t *testing.T) {
 				}
 			}
 			kinds := d.upTo(7)
-			if size == 4 && bits%3 > 0 { // by themselves they nearly all go round
-				continue
-			}
 			if got, want := tellRounds(edges, kinds), tellRoundsByHand(edges, kinds); got != want {
 				t.Fatalf("of %+v and %d %s, want %s", edges, kinds, got, want)
 			}
