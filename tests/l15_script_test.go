@@ -86,17 +86,19 @@ func formatByHand(a impl.Act) impl.TextResult {
 	return impl.TextResult{Text: lineByHand(a)}
 }
 
+// replyTextByHand writes a reply whatever its numbers are; one that is below 0 is seen by its sign.
 func replyTextByHand(r impl.Reply) impl.TextResult {
-	if r.Code != 0 {
-		return impl.TextResult{Text: fmt.Sprintf("! %d", r.Code)}
-	}
-	least, text := r.Value, fmt.Sprintf("ok %d", r.Value)
+	numbers := fmt.Sprint(r.Code, r.Value)
+	text := fmt.Sprintf("ok %d", r.Value)
 	for _, cell := range r.Cells {
-		least = min(least, cell.Key, cell.Value)
+		numbers += fmt.Sprint(" ", cell.Key, cell.Value)
 		text += fmt.Sprintf(" %d=%d", cell.Key, cell.Value)
 	}
-	if least < 0 {
+	switch {
+	case strings.Contains(numbers, "-"):
 		return impl.TextResult{Code: impl.ErrRange}
+	case r.Code > 0:
+		return impl.TextResult{Text: fmt.Sprintf("! %d", r.Code)}
 	}
 	return impl.TextResult{Text: text}
 }
@@ -489,19 +491,46 @@ func TestReplyTextAsTold(t *testing.T) {
 		{impl.Reply{Cells: cellList(1, 5)}, "ok 0 1=5"}, {impl.Reply{Cells: cellList(0, 0)}, "ok 0 0=0"}, {impl.Reply{Value: 3, Cells: cellList(31, 9999)}, "ok 3 31=9999"},
 		{impl.Reply{Cells: cellList(1, 10, 2, 20, 31, 0)}, "ok 0 1=10 2=20 31=0"}, {impl.Reply{Value: 2, Cells: cellList(5, 1, 5, 1, 3, 2)}, "ok 2 5=1 5=1 3=2"}, {impl.Reply{Cells: cellList(32, 10000, math.MaxInt64, math.MaxInt64)}, "ok 0 32=10000 9223372036854775807=9223372036854775807"},
 		{impl.Reply{Code: 1}, "! 1"}, {impl.Reply{Code: 4}, "! 4"}, {impl.Reply{Code: 9}, "! 9"}, {impl.Reply{Code: 10}, "! 10"}, {impl.Reply{Code: 77}, "! 77"}, {impl.Reply{Code: math.MaxInt64}, "! 9223372036854775807"},
-		{impl.Reply{Code: -1}, "! -1"}, {impl.Reply{Code: -10}, "! -10"}, {impl.Reply{Code: math.MinInt64}, "! -9223372036854775808"},
 		{impl.Reply{Code: 9, Value: 5}, "! 9"}, {impl.Reply{Code: 9, Cells: cellList(1, 5)}, "! 9"}, {impl.Reply{Code: 10, Value: 5, Cells: cellList(1, 5, 2, 6)}, "! 10"},
-		{impl.Reply{Code: 9, Value: -1}, "! 9"}, {impl.Reply{Code: 3, Cells: cellList(-1, 5)}, "! 3"}, {impl.Reply{Code: 3, Cells: cellList(1, -5)}, "! 3"}, {impl.Reply{Code: -3, Value: -1, Cells: cellList(-1, -1)}, "! -3"},
+		{impl.Reply{Code: 4, Value: 5, Cells: cellList(1, 2)}, "! 4"}, {impl.Reply{Code: 1, Value: math.MaxInt64, Cells: cellList(math.MaxInt64, math.MaxInt64, 0, 0)}, "! 1"}, {impl.Reply{Code: math.MaxInt64, Value: 5, Cells: cellList(3, 1, 2, 9)}, "! 9223372036854775807"}, {impl.Reply{Code: 10, Cells: []impl.Cell{}}, "! 10"},
 	} {
 		if got, by := impl.ReplyText(c.reply), replyTextByHand(c.reply); got != (impl.TextResult{Text: c.text}) || by != got {
 			t.Errorf("ReplyText(%+v) = %+v, by hand %+v, want %q", c.reply, got, by, c.text)
 		}
 	}
-	for _, r := range []impl.Reply{
-		{Value: -1}, {Value: math.MinInt64}, {Value: -1, Cells: cellList(1, 5)}, {Cells: cellList(-1, 5)}, {Cells: cellList(1, -5)}, {Cells: cellList(-1, -1)}, {Cells: cellList(math.MinInt64, 0)}, {Cells: cellList(0, math.MinInt64)}, {Value: 5, Cells: cellList(-1, 5)}, {Value: 5, Cells: cellList(5, -1)},
-		{Cells: cellList(1, 1, 2, 2, -3, 3)}, {Cells: cellList(1, 1, 2, 2, 3, -3)}, {Cells: cellList(1, 1, -2, 2, 3, 3)}, {Cells: cellList(1, 1, 2, -2, 3, 3)}, {Cells: cellList(-1, 1, 2, 2)}, {Cells: cellList(1, -1, 2, 2)},
-	} {
+}
+
+// One number below 0 is enough, whichever it is, and whether or not it would be written.
+func TestReplyTextBelowZero(t *testing.T) {
+	refused := func(r impl.Reply) {
+		t.Helper()
 		wantCode(t, told(r), impl.ReplyText(r), impl.ErrRange)
+		if by := replyTextByHand(r); by != (impl.TextResult{Code: impl.ErrRange}) {
+			t.Errorf("%+v by hand: %+v", r, by)
+		}
+	}
+	for _, low := range []int64{-1, -2, -10, -4294967296, math.MinInt64} {
+		for _, cells := range [][]impl.Cell{nil, {}, cellList(1, 2), cellList(0, 0, 31, 9999), cellList(math.MaxInt64, math.MaxInt64)} {
+			for _, value := range []int64{0, 5, math.MaxInt64, low} {
+				refused(impl.Reply{Code: low, Value: value, Cells: cells})
+			}
+		}
+		for _, code := range []int64{0, 1, 3, 4, 10, 77, math.MaxInt64} {
+			for _, cells := range [][]impl.Cell{nil, {}, cellList(1, 5), cellList(low, low)} {
+				refused(impl.Reply{Code: code, Value: low, Cells: cells})
+			}
+			for _, value := range []int64{0, 5, math.MaxInt64} {
+				refused(impl.Reply{Code: code, Value: value, Cells: cellList(low, low)})
+				for place := range 3 {
+					keys, values := cellList(1, 1, 2, 2, 3, 3), cellList(1, 1, 2, 2, 3, 3)
+					keys[place].Key, values[place].Value = low, low
+					for _, cells := range [][]impl.Cell{keys, values} {
+						refused(impl.Reply{Code: code, Value: value, Cells: cells})
+						refused(impl.Reply{Code: code, Value: value, Cells: cells[place : place+1]})
+					}
+				}
+			}
+		}
 	}
 }
 
@@ -514,7 +543,7 @@ func TestReplyTextAsByHand(t *testing.T) {
 		pick := func() int64 { return numbers[d.upTo(good)] }
 		r := impl.Reply{Value: pick()}
 		if d.upTo(3) == 0 {
-			r.Code = numbers[d.upTo(13)]
+			r.Code = pick()
 		}
 		for range d.upTo(4) {
 			r.Cells = append(r.Cells, impl.Cell{Key: pick(), Value: pick()})
@@ -962,6 +991,7 @@ func TestScriptArgumentsStay(t *testing.T) {
 		before := wholeRoom(cells)
 		impl.ReplyText(impl.Reply{Cells: cells})
 		impl.ReplyText(impl.Reply{Code: 4, Cells: cells})
+		impl.ReplyText(impl.Reply{Code: -1, Cells: cells})
 		impl.ReplyText(impl.Reply{Value: -1, Cells: cells})
 		if !slices.Equal(wholeRoom(cells), before) {
 			t.Errorf("cells were %v, and are %v", before, wholeRoom(cells))
@@ -1054,7 +1084,7 @@ func TestNilAndEmptyListsOfScriptsAreAlike(t *testing.T) {
 			t.Fatalf("engine %d: with nil %s, with empty lists %s", n, a, b)
 		}
 	}
-	for _, r := range []impl.Reply{{}, {Code: 4}, {Value: 7}, {Value: -7}} {
+	for _, r := range []impl.Reply{{}, {Code: 4}, {Code: -4}, {Code: 4, Value: -7}, {Value: 7}, {Value: -7}} {
 		nothing := r
 		nothing.Cells = []impl.Cell{}
 		if a, b := impl.ReplyText(r), impl.ReplyText(nothing); a != b {
